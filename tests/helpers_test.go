@@ -1,0 +1,210 @@
+package tests
+
+import (
+	"math/rand/v2"
+	"slices"
+	"testing"
+
+	"loop.example/shopsthatmake/impl"
+)
+
+// spare is what lies in the spare capacity of guarded lists.
+const spare = -77
+
+// same reports whether two lists have the same numbers; nil and empty lists
+// are the same value.
+func same(a, b []int) bool {
+	return slices.Equal(a, b)
+}
+
+// sameRows reports whether two lists of rows have the same numbers.
+func sameRows(a, b [][]int) bool {
+	return slices.EqualFunc(a, b, same)
+}
+
+// expect fails the test if a list is not the one that is wanted.
+func expect(t *testing.T, what string, got, want []int) {
+	t.Helper()
+	if !same(got, want) {
+		t.Errorf("%s = %v, want %v", what, got, want)
+	}
+}
+
+// repeated returns a list of n times the same number.
+func repeated(n, number int) []int {
+	return slices.Repeat([]int{number}, n)
+}
+
+// sum returns the sum of all numbers.
+func sum(list []int) int {
+	all := 0
+	for _, n := range list {
+		all += n
+	}
+	return all
+}
+
+// added returns the sums of two lists, number by number.
+func added(a, b []int) []int {
+	both := slices.Clone(a)
+	for i := range both {
+		both[i] += b[i]
+	}
+	return both
+}
+
+// times returns the products of two lists, number by number, all together.
+func times(a, b []int) int {
+	all := 0
+	for i := range a {
+		all += a[i] * b[i]
+	}
+	return all
+}
+
+// guarded returns a copy of a list with spare capacity that is marked.
+func guarded(list []int) []int {
+	room := append(slices.Clone(list), spare, spare, spare)
+	return room[:len(list)]
+}
+
+// guardedRows returns a copy of rows, each of them guarded, with spare
+// capacity that is marked, too.
+func guardedRows(rows [][]int) [][]int {
+	room := make([][]int, 0, len(rows)+2)
+	for _, row := range rows {
+		room = append(room, guarded(row))
+	}
+	return append(room, []int{spare}, []int{spare})[:len(rows)]
+}
+
+// untouched reports whether a guarded list and its spare capacity are as they
+// were made of the list.
+func untouched(list, guard []int) bool {
+	marked := append(slices.Clone(list), spare, spare, spare)
+	return same(guard[:len(marked)], marked)
+}
+
+// untouchedRows reports whether guarded rows and their spare capacity are as
+// they were made of the rows.
+func untouchedRows(rows, guard [][]int) bool {
+	all := guard[:len(rows)+2]
+	for i, row := range rows {
+		if !untouched(row, all[i]) {
+			return false
+		}
+	}
+	return sameRows(all[len(rows):], [][]int{{spare}, {spare}})
+}
+
+// overwrite writes over a list and all of its spare capacity.
+func overwrite(list []int) {
+	whole := list[:cap(list)]
+	for i := range whole {
+		whole[i] = 1000 + i
+	}
+}
+
+// fixedRandom returns a source that gives the same numbers in every run.
+func fixedRandom() *rand.Rand {
+	return rand.New(rand.NewPCG(1, 2))
+}
+
+// fullBill returns the bill of n parts each of which takes as many as number
+// of each part ahead of it.
+func fullBill(n, number int) [][]int {
+	bill := make([][]int, n)
+	for i := range bill {
+		bill[i] = repeated(i, number)
+	}
+	return bill
+}
+
+// allBills returns all bills of n parts.
+func allBills(n int) [][][]int {
+	bills := [][][]int{fullBill(n, 0)}
+	for i := range n {
+		for j := range i {
+			bills = withEachUse(bills, i, j)
+		}
+	}
+	return bills
+}
+
+// withEachUse returns the bills with each number that the part i may take of
+// the part j.
+func withEachUse(bills [][][]int, i, j int) [][][]int {
+	var more [][][]int
+	for _, bill := range bills {
+		for use := range impl.MaxUse + 1 {
+			changed := copyOfRows(bill)
+			changed[i][j] = use
+			more = append(more, changed)
+		}
+	}
+	return more
+}
+
+// copyOfRows returns a copy of rows that shares nothing with them.
+func copyOfRows(rows [][]int) [][]int {
+	copied := make([][]int, len(rows))
+	for i, row := range rows {
+		copied[i] = slices.Clone(row)
+	}
+	return copied
+}
+
+// randomBill returns a bill of n parts, which takes about one in gap of the
+// parts that it may take.
+func randomBill(r *rand.Rand, n, gap int) [][]int {
+	bill := fullBill(n, 0)
+	for _, row := range bill {
+		for j := range row {
+			if r.IntN(gap) == 0 {
+				row[j] = r.IntN(impl.MaxUse + 1)
+			}
+		}
+	}
+	return bill
+}
+
+// randomList returns n numbers in 0..limit.
+func randomList(r *rand.Rand, n, limit int) []int {
+	list := make([]int, n)
+	for i := range list {
+		list[i] = r.IntN(limit + 1)
+	}
+	return list
+}
+
+// someBills returns all bills of few parts, and of each larger number of parts
+// those that take nothing and all, and some between.
+func someBills() [][][]int {
+	var bills [][][]int
+	for n := 1; n <= 3; n++ {
+		bills = append(bills, allBills(n)...)
+	}
+	r := fixedRandom()
+	for n := 4; n <= impl.MaxParts; n++ {
+		bills = append(bills, fullBill(n, 0), fullBill(n, 1), fullBill(n, impl.MaxUse))
+		for range 60 {
+			bills = append(bills, randomBill(r, n, 1), randomBill(r, n, 3))
+		}
+	}
+	return bills
+}
+
+// someLists returns lists of n numbers in 0..MaxWant: of 0, of MaxWant, of one
+// for one of them alone, and some others.
+func someLists(r *rand.Rand, n int) [][]int {
+	lists := [][]int{repeated(n, 0), repeated(n, impl.MaxWant)}
+	for i := range n {
+		one := repeated(n, 0)
+		one[i] = 1
+		lists = append(lists, one)
+	}
+	for range 3 {
+		lists = append(lists, randomList(r, n, impl.MaxWant))
+	}
+	return lists
+}

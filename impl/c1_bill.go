@@ -90,10 +90,15 @@ func UsedIn(bill [][]int, j int) []int {
 	return slices.Collect(partsThat(bill, takesIt))
 }
 
+// isUpTo reports whether the number is in 0..limit.
+func isUpTo(n, limit int) bool {
+	return n >= 0 && n <= limit
+}
+
 // allUpTo reports whether all numbers are in 0..limit.
 func allUpTo(list []int, limit int) bool {
 	for _, n := range list {
-		if n < 0 || n > limit {
+		if !isUpTo(n, limit) {
 			return false
 		}
 	}

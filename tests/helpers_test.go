@@ -105,6 +105,34 @@ func overwrite(list []int) {
 	}
 }
 
+// checkMemory fails the test if a call changes the lists that are its
+// arguments, gives out memory of them, or keeps any of them.
+func checkMemory(t *testing.T, what string, lists [][]int, call func(lists [][]int) []int) {
+	t.Helper()
+	guard := guardedRows(lists)
+	result := call(guard)
+	if !untouchedRows(lists, guard) {
+		t.Fatalf("%s changed its arguments, of %v", what, lists)
+	}
+	kept := slices.Clone(result)
+	for _, list := range guard {
+		overwrite(list)
+	}
+	if !same(result, kept) {
+		t.Fatalf("%s: the result changed with the arguments, of %v", what, lists)
+	}
+	overwrite(result)
+	guard = guardedRows(lists)
+	again := call(guard)
+	if !same(again, kept) {
+		t.Fatalf("%s of %v = %v, and then %v", what, lists, kept, again)
+	}
+	overwrite(again)
+	if !untouchedRows(lists, guard) {
+		t.Fatalf("%s gave out memory of its arguments, of %v", what, lists)
+	}
+}
+
 // fixedRandom returns a source that gives the same numbers in every run.
 func fixedRandom() *rand.Rand {
 	return rand.New(rand.NewPCG(1, 2))
@@ -205,6 +233,51 @@ func someLists(r *rand.Rand, n int) [][]int {
 	}
 	for range 3 {
 		lists = append(lists, randomList(r, n, impl.MaxWant))
+	}
+	return lists
+}
+
+// allLists returns all lists of n of the numbers.
+func allLists(n int, numbers ...int) [][]int {
+	lists := [][]int{{}}
+	for range n {
+		var longer [][]int
+		for _, list := range lists {
+			for _, number := range numbers {
+				longer = append(longer, append(slices.Clone(list), number))
+			}
+		}
+		lists = longer
+	}
+	return lists
+}
+
+// sparse returns a copy of a list in which about one number in gap is kept,
+// and the others are 0.
+func sparse(r *rand.Rand, list []int, gap int) []int {
+	kept := slices.Clone(list)
+	for i := range kept {
+		if r.IntN(gap) != 0 {
+			kept[i] = 0
+		}
+	}
+	return kept
+}
+
+// someDays returns numbers of days, in 0..limit: no days, all lists of few days
+// with few numbers, and some lists of each larger number of days.
+func someDays(limit int) [][]int {
+	var lists [][]int
+	for n := range 4 {
+		lists = append(lists, allLists(n, 0, 1, limit)...)
+	}
+	r := fixedRandom()
+	for n := 4; n <= impl.MaxDays; n++ {
+		lists = append(lists, repeated(n, 0), repeated(n, 1), repeated(n, limit))
+		for range 20 {
+			list := randomList(r, n, limit)
+			lists = append(lists, list, sparse(r, list, 2), sparse(r, list, 4), randomList(r, n, 2))
+		}
 	}
 	return lists
 }

@@ -46,6 +46,30 @@ func someOrders(r *rand.Rand, n int) [][]int {
 	return orders
 }
 
+// badOrders returns lists that are no orders of n jobs, at least 1: too short,
+// too long, with a job twice, and with a number that is no job's.
+func badOrders(n int) [][]int {
+	bad := [][]int{nil}
+	for _, order := range [][]int{inOrder(n), backward(inOrder(n))} {
+		bad = append(bad, order[:n-1], order[1:], slices.Concat(order, order), slices.Concat(order, repeated(1000, 0)))
+		for _, more := range []int{0, n - 1, n, -1, 64} {
+			bad = append(bad, append(slices.Clone(order), more), append([]int{more}, order...))
+		}
+		for place, job := range order {
+			others := append(outOf(0, n-1), inOrder(impl.MaxJobs+2)...)
+			others = append(others, job+64, job-64, job+1<<32, job+math.MinInt)
+			for _, other := range others {
+				if other != job {
+					changed := slices.Clone(order)
+					changed[place] = other
+					bad = append(bad, changed)
+				}
+			}
+		}
+	}
+	return bad
+}
+
 // backward returns a list the other way round.
 func backward(list []int) []int {
 	back := slices.Clone(list)
@@ -444,31 +468,10 @@ func TestListsThatAreNoOrders(t *testing.T) {
 func TestBadOrders(t *testing.T) {
 	for n := 1; n <= impl.MaxJobs; n++ {
 		jobs := paired(repeated(n, 1), repeated(n, 2))
-		for _, order := range [][]int{inOrder(n), backward(inOrder(n))} {
-			expectSpan(t, jobs, order, 2*n+1)
-			expectSpan(t, jobs, order[:n-1], -1)
-			expectSpan(t, jobs, order[1:], -1)
-			expectSpan(t, jobs, nil, -1)
-			for _, more := range []int{0, n - 1, n, -1, 64} {
-				expectSpan(t, jobs, append(slices.Clone(order), more), -1)
-				expectSpan(t, jobs, append([]int{more}, order...), -1)
-			}
-			expectSpan(t, jobs, slices.Concat(order, order), -1)
-			expectSpan(t, jobs, slices.Concat(order, repeated(1000, 0)), -1)
-			for place := range n {
-				changed := slices.Clone(order)
-				for _, job := range append(outOf(0, n-1), inOrder(impl.MaxJobs+2)...) {
-					if job == order[place] {
-						continue
-					}
-					changed[place] = job
-					expectSpan(t, jobs, changed, -1)
-				}
-				for _, job := range []int{order[place] + 64, order[place] - 64, order[place] + 1<<32, order[place] + math.MinInt} {
-					changed[place] = job
-					expectSpan(t, jobs, changed, -1)
-				}
-			}
+		expectSpan(t, jobs, inOrder(n), 2*n+1)
+		expectSpan(t, jobs, backward(inOrder(n)), 2*n+1)
+		for _, order := range badOrders(n) {
+			expectSpan(t, jobs, order, -1)
 		}
 	}
 }

@@ -58,13 +58,7 @@ func badOrders(n int) [][]int {
 		for place, job := range order {
 			others := append(outOf(0, n-1), inOrder(impl.MaxJobs+2)...)
 			others = append(others, job+64, job-64, job+1<<32, job+math.MinInt)
-			for _, other := range others {
-				if other != job {
-					changed := slices.Clone(order)
-					changed[place] = other
-					bad = append(bad, changed)
-				}
-			}
+			bad = append(bad, changedAt(order, place, others)...)
 		}
 	}
 	return bad

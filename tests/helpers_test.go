@@ -105,6 +105,20 @@ func overwrite(list []int) {
 	}
 }
 
+// changedAt returns copies of a list in which the number at the place is
+// changed to each of the others that is not the same.
+func changedAt(list []int, place int, others []int) [][]int {
+	var lists [][]int
+	for _, other := range others {
+		if other != list[place] {
+			changed := slices.Clone(list)
+			changed[place] = other
+			lists = append(lists, changed)
+		}
+	}
+	return lists
+}
+
 // checkMemory fails the test if a call changes the lists that are its
 // arguments, gives out memory of them, or keeps any of them.
 func checkMemory(t *testing.T, what string, lists [][]int, call func(lists [][]int) []int) {

@@ -759,79 +759,6 @@ func TestP70TwoMachinesAreAShop(t *testing.T) {
 	}
 }
 
-// guardedShop returns a copy of a shop, each of its jobs guarded, with spare
-// capacity that is marked, too.
-func guardedShop(shop [][][]int) [][][]int {
-	room := make([][][]int, 0, len(shop)+1)
-	for _, job := range shop {
-		room = append(room, guardedRows(job))
-	}
-	return append(room, [][]int{{spare}})[:len(shop)]
-}
-
-// untouchedShop reports whether a guarded shop and its spare capacity are as
-// they were made of the shop.
-func untouchedShop(shop, guard [][][]int) bool {
-	all := guard[:len(shop)+1]
-	for i, job := range shop {
-		if len(all[i]) != len(job) || !untouchedRows(job, all[i]) {
-			return false
-		}
-	}
-	return sameRows(all[len(shop)], [][]int{{spare}})
-}
-
-// overwriteRows writes over rows and all of their spare capacity, and reports
-// whether each of them had memory of its own.
-func overwriteRows(rows [][]int) bool {
-	defer clear(rows[:cap(rows)])
-	for i, row := range rows {
-		for j := range row[:cap(row)] {
-			row[:cap(row)][j] = 1000*i + j
-		}
-	}
-	for i, row := range rows {
-		for j, n := range row[:cap(row)] {
-			if n != 1000*i+j {
-				return false
-			}
-		}
-	}
-	return true
-}
-
-// checkShopMemory fails the test if a call changes the shop or the turns that
-// are its arguments, gives out memory of them, keeps any of them, or gives out
-// two slices that share memory.
-func checkShopMemory(t *testing.T, what string, shop [][][]int, turns []int, call func(shop [][][]int, turns []int) [][]int) {
-	t.Helper()
-	guard, guardTurns := guardedShop(shop), guarded(turns)
-	result := call(guard, guardTurns)
-	if !untouchedShop(shop, guard) || !untouched(turns, guardTurns) {
-		t.Fatalf("%s changed its arguments, of %v and %v", what, shop, turns)
-	}
-	kept := copyOfRows(result)
-	for _, job := range guard {
-		overwriteRows(job)
-	}
-	overwrite(guardTurns)
-	if !sameRows(result, kept) {
-		t.Fatalf("%s: the result changed with the arguments, of %v and %v", what, shop, turns)
-	}
-	overwriteRows(result)
-	guard, guardTurns = guardedShop(shop), guarded(turns)
-	again := call(guard, guardTurns)
-	if !sameRows(again, kept) {
-		t.Fatalf("%s of %v and %v = %v, and then %v", what, shop, turns, kept, again)
-	}
-	if !overwriteRows(again) {
-		t.Fatalf("%s gave out slices that share memory, of %v and %v", what, shop, turns)
-	}
-	if !untouchedShop(shop, guard) || !untouched(turns, guardTurns) {
-		t.Fatalf("%s gave out memory of its arguments, of %v and %v", what, shop, turns)
-	}
-}
-
 // shopCalls returns calls of all functions of shops.
 func shopCalls() map[string]func(shop [][][]int, turns []int) [][]int {
 	number := map[bool]int{true: 1}
@@ -864,7 +791,7 @@ func TestShopsShareNoMemory(t *testing.T) {
 	}
 	for name, call := range shopCalls() {
 		for _, shop := range bad {
-			checkShopMemory(t, name, shop, []int{1, 0}, call)
+			checkGroupsMemory(t, name, shop, []int{1, 0}, call)
 		}
 		for i, shop := range someShops() {
 			if i%4 != 0 {
@@ -873,7 +800,7 @@ func TestShopsShareNoMemory(t *testing.T) {
 			all := turnsOf(shop)
 			first, last := all[0], all[len(all)-1]
 			for _, turns := range [][]int{first, last, append(slices.Clone(last), 0), {1, 0, -1}} {
-				checkShopMemory(t, name, shop, turns, call)
+				checkGroupsMemory(t, name, shop, turns, call)
 			}
 		}
 	}

@@ -295,3 +295,76 @@ func someDays(limit int) [][]int {
 	}
 	return lists
 }
+
+// guardedGroups returns a copy of groups of rows, each of them guarded, with
+// spare capacity that is marked, too.
+func guardedGroups(groups [][][]int) [][][]int {
+	room := make([][][]int, 0, len(groups)+1)
+	for _, rows := range groups {
+		room = append(room, guardedRows(rows))
+	}
+	return append(room, [][]int{{spare}})[:len(groups)]
+}
+
+// untouchedGroups reports whether guarded groups and their spare capacity are
+// as they were made of the groups.
+func untouchedGroups(groups, guard [][][]int) bool {
+	all := guard[:len(groups)+1]
+	for i, rows := range groups {
+		if len(all[i]) != len(rows) || !untouchedRows(rows, all[i]) {
+			return false
+		}
+	}
+	return sameRows(all[len(groups)], [][]int{{spare}})
+}
+
+// overwriteRows writes over rows and all of their spare capacity, and reports
+// whether each of them had memory of its own.
+func overwriteRows(rows [][]int) bool {
+	defer clear(rows[:cap(rows)])
+	for i, row := range rows {
+		for j := range row[:cap(row)] {
+			row[:cap(row)][j] = 1000*i + j
+		}
+	}
+	for i, row := range rows {
+		for j, n := range row[:cap(row)] {
+			if n != 1000*i+j {
+				return false
+			}
+		}
+	}
+	return true
+}
+
+// checkGroupsMemory fails the test if a call changes the groups of rows or the
+// list that are its arguments, gives out memory of them, keeps any of them, or
+// gives out two slices that share memory.
+func checkGroupsMemory(t *testing.T, what string, groups [][][]int, list []int, call func(groups [][][]int, list []int) [][]int) {
+	t.Helper()
+	guard, guardList := guardedGroups(groups), guarded(list)
+	result := call(guard, guardList)
+	if !untouchedGroups(groups, guard) || !untouched(list, guardList) {
+		t.Fatalf("%s changed its arguments, of %v and %v", what, groups, list)
+	}
+	kept := copyOfRows(result)
+	for _, rows := range guard {
+		overwriteRows(rows)
+	}
+	overwrite(guardList)
+	if !sameRows(result, kept) {
+		t.Fatalf("%s: the result changed with the arguments, of %v and %v", what, groups, list)
+	}
+	overwriteRows(result)
+	guard, guardList = guardedGroups(groups), guarded(list)
+	again := call(guard, guardList)
+	if !sameRows(again, kept) {
+		t.Fatalf("%s of %v and %v = %v, and then %v", what, groups, list, kept, again)
+	}
+	if !overwriteRows(again) {
+		t.Fatalf("%s gave out slices that share memory, of %v and %v", what, groups, list)
+	}
+	if !untouchedGroups(groups, guard) || !untouched(list, guardList) {
+		t.Fatalf("%s gave out memory of its arguments, of %v and %v", what, groups, list)
+	}
+}

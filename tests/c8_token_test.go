@@ -160,7 +160,7 @@ func paceByRounds(n impl.Net) impl.Frac {
 			pace = rat
 		}
 	}
-	return impl.Frac{Up: int(pace.Num().Int64()), Down: int(pace.Denom().Int64())}
+	return fracOfRat(pace)
 }
 
 // keepsByRounds reports whether no round takes more time than the pace has for

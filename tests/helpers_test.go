@@ -1,6 +1,7 @@
 package tests
 
 import (
+	"math/big"
 	"math/rand/v2"
 	"slices"
 	"testing"
@@ -60,6 +61,11 @@ func times(a, b []int) int {
 		all += a[i] * b[i]
 	}
 	return all
+}
+
+// fracOfRat returns the fraction of a number.
+func fracOfRat(rat *big.Rat) impl.Frac {
+	return impl.Frac{Up: int(rat.Num().Int64()), Down: int(rat.Denom().Int64())}
 }
 
 // guarded returns a copy of a list with spare capacity that is marked.
